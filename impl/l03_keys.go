@@ -65,7 +65,7 @@ func KeysOf(l []Epoch, known []string) []int64 {
 }
 
 func epochOk(e Epoch) bool {
-	if e.Key < lowestEpochKey || e.Key > highestEpochKey {
+	if !epochKeyOk(e.Key) {
 		return false
 	}
 	for _, m := range e.Members {
@@ -74,6 +74,10 @@ func epochOk(e Epoch) bool {
 		}
 	}
 	return rises(e.Members)
+}
+
+func epochKeyOk(key int64) bool {
+	return key >= lowestEpochKey && key <= highestEpochKey
 }
 
 // keysByMember goes through each member of each epoch, with the epoch's key.
