@@ -63,6 +63,11 @@ func roomy[T any](l []T, mark T, alike func(a, b T) bool) ([]T, func() bool) {
 	return whole[:len(l)], func() bool { return slices.EqualFunc(whole, before, alike) }
 }
 
+// shortly tells a value that may be too long to be told whole.
+func shortly(v any) string {
+	return fmt.Sprintf("%.800q", fmt.Sprintf("%+v", v))
+}
+
 func sameText(a, b string) bool { return a == b }
 
 func atoms(n int) []string {
